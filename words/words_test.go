@@ -316,6 +316,32 @@ func TestP1201WhatTellsNothing(t *testing.T) {
 	}
 }
 
+// Is tells just those texts of which Split tells one word, from the first byte
+// to the last.
+func TestP1201Is(t *testing.T) {
+	texts := []string{"", "a", "a;", "ab", "a b", "a\n", "a#", " a", "-", "a-", "-a", "A", "aB", "é", "aé", "a\x00", "1a", "a1", "a.", strings.Repeat("a", 10000), strings.Repeat("a", 9999) + ";"}
+	for b := range 256 {
+		for _, s := range []string{"", "z", "z-0"} {
+			texts = append(texts, s+string([]byte{byte(b)}), s+string([]byte{byte(b)})+"9")
+		}
+	}
+	c := chance(12011)
+	for i := range 5000 {
+		texts = append(texts, c.made(i%2 == 0))
+	}
+	for _, s := range texts {
+		l, _, _ := Split(s)
+		want := len(l) == 1 && l[0] == word(0, s)
+		if got := Is(s); got != want {
+			t.Errorf("Is(%.60q): %v", s, got)
+		}
+	}
+	// How long a text may be is asked of Split alone.
+	if long := strings.Repeat("a", 20000); !Is(long) || Is(long+".") {
+		t.Error("Is of a text longer than Split reads")
+	}
+}
+
 // What is answered is new memory: no list is shared with another answer, and
 // no text with what was handed in.
 func TestP1202NewMemory(t *testing.T) {
