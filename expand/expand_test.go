@@ -537,6 +537,31 @@ func (c *chance) list(x *tables.Tables, g api.Graph, w api.Want, down []bool) []
 	return l
 }
 
+// A Guide answers as Seg does, whatever it was asked ahead, and however often.
+func TestP1601Guide(t *testing.T) {
+	c := chance(61)
+	for range 60 {
+		g := c.graph(7, 12)
+		x := frozen(g)
+		w, down := c.want(g), c.down(len(g.Links))
+		guide, e := Find(x, w, down)
+		if _, want := opt.Cost(g, w, down); e != want {
+			t.Errorf("Find of %v, %v down: %v, not %v", w, down, e, want)
+		}
+		for range 300 {
+			at := [2]int{c.below(g.Nodes+2) - 1, c.below(len(w.Via)+3) - 1}
+			s := api.Seg{Edge: c.below(2) == 0, To: c.below(2*len(g.Links)+3) - 1}
+			got, ok := guide.Seg(at, s)
+			if want, leads := segOf(x, g, w, down, at, s); got != want || ok != leads {
+				t.Errorf("a Guide of %v, %v down, from %v by %v: %v, %v, not %v, %v", w, down, at, s, got, ok, want, leads)
+			}
+		}
+	}
+	if got, ok := (Guide{}).Seg([2]int{}, edge(0)); got != [2]int{} || ok {
+		t.Errorf("the zero one: %v, %v", got, ok)
+	}
+}
+
 // List says of segments that they lead to the goal just if each walk that they
 // can be is Opt.
 func TestP1602ListIsOpt(t *testing.T) {
